@@ -1,0 +1,108 @@
+package tests
+
+import (
+	"math"
+	"strings"
+	"testing"
+
+	"loop.example/g00159/impl"
+)
+
+// tableOfCodes is the document's table of codes.
+var tableOfCodes = []struct {
+	number, constant int
+	word             string
+}{
+	{0, impl.OK, "ok"},
+	{1, impl.ErrBad, "bad"},
+	{2, impl.ErrLong, "long"},
+	{3, impl.ErrForm, "form"},
+	{4, impl.ErrSyntax, "syntax"},
+	{5, impl.ErrRange, "range"},
+	{6, impl.ErrNone, "none"},
+	{7, impl.ErrMany, "many"},
+	{8, impl.ErrState, "state"},
+	{9, impl.ErrName, "name"},
+	{10, impl.ErrTwice, "twice"},
+	{11, impl.ErrSize, "size"},
+	{12, impl.ErrLoop, "loop"},
+}
+
+func TestConstants(t *testing.T) {
+	if impl.MaxText != 65536 || impl.MaxList != 4096 || impl.MaxName != 40 {
+		t.Error("the limits of chapter 1")
+	}
+	if impl.MaxVars != 40 || impl.MaxClauses != 300 || impl.MaxWidth != 12 {
+		t.Error("the limits of chapter 2")
+	}
+}
+
+func TestCodesAndWords(t *testing.T) {
+	for _, row := range tableOfCodes {
+		if row.constant != row.number {
+			t.Errorf("the constant of %q is %d", row.word, row.constant)
+		}
+		if got := impl.CodeWord(row.number); got != row.word {
+			t.Errorf("CodeWord(%d) = %q", row.number, got)
+		}
+		if got := impl.CodeOf(row.word); got != row.number {
+			t.Errorf("CodeOf(%q) = %d", row.word, got)
+		}
+	}
+}
+
+func TestNoSuchCode(t *testing.T) {
+	for _, code := range []int{-1, 13, 14, 256, math.MinInt, math.MaxInt} {
+		if got := impl.CodeWord(code); got != "" {
+			t.Errorf("CodeWord(%d) = %q", code, got)
+		}
+	}
+}
+
+func TestNoSuchWord(t *testing.T) {
+	long := strings.Repeat("ok", impl.MaxText)
+	for _, word := range []string{"", " ", "o", "okay", "ok ", " ok", "OK", "Bad", "loops", "ErrBad", "0", "ok\x00", long} {
+		if got := impl.CodeOf(word); got != -1 {
+			t.Errorf("CodeOf(%.20q) = %d", word, got)
+		}
+	}
+}
+
+func TestNames(t *testing.T) {
+	for _, name := range []string{
+		"a", "z", "A", "Z", "_", "a0", "a9", "_1", "r_1", "Router7", "__",
+		strings.Repeat("x", impl.MaxName), "_" + strings.Repeat("9", impl.MaxName-1),
+	} {
+		if !impl.NameOK(name) {
+			t.Errorf("NameOK(%q) is false", name)
+		}
+	}
+}
+
+func TestNoNames(t *testing.T) {
+	for _, name := range []string{
+		"", "0", "9a", "-", "a-b", "a b", " a", "a ", "a.b", "a\n", "\x00", "a\x00", "é", "aé", "\xff",
+		"@", "[", "`", "{", "a@", "a[", "a`", "a{", "a/", "a:",
+		strings.Repeat("x", impl.MaxName+1), strings.Repeat("x", impl.MaxText), strings.Repeat("x", impl.MaxText+1),
+	} {
+		if impl.NameOK(name) {
+			t.Errorf("NameOK(%.50q) is true", name)
+		}
+	}
+}
+
+// TestNamesByteByByte holds every byte, first and behind, against the document's sentence.
+func TestNamesByteByByte(t *testing.T) {
+	const letters = "abcdefghijklmnopqrstuvwxyzABCDEFGHIJKLMNOPQRSTUVWXYZ_"
+	const digits = "0123456789"
+	for b := range 256 {
+		one := string([]byte{byte(b)})
+		letter := strings.Contains(letters, one)
+		if impl.NameOK(one) != letter {
+			t.Errorf("NameOK(%q) is %v", one, !letter)
+		}
+		if behind := letter || strings.Contains(digits, one); impl.NameOK("a"+one) != behind {
+			t.Errorf("NameOK(%q) is %v", "a"+one, !behind)
+		}
+	}
+}

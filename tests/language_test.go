@@ -1,0 +1,102 @@
+package tests
+
+import (
+	"go/ast"
+	"go/format"
+	"go/parser"
+	"go/token"
+	"os"
+	"path/filepath"
+	"strconv"
+	"strings"
+	"testing"
+)
+
+// What the program's language page asks, as far as a look at its text tells it.
+
+const maxFunctionLines = 60
+
+const allowedImports = " bytes cmp container/heap errors iter maps math math/bits slices sort strconv strings sync sync/atomic unicode unicode/utf8 "
+
+func programFiles(t *testing.T) []string {
+	t.Helper()
+	files, err := filepath.Glob(filepath.Join("..", "impl", "*.go"))
+	if err != nil || len(files) == 0 {
+		t.Fatal("no files of the program", err)
+	}
+	var program []string
+	for _, file := range files {
+		if !strings.HasSuffix(file, "_test.go") {
+			program = append(program, file)
+		}
+	}
+	return program
+}
+
+func parsed(t *testing.T, file string) (*token.FileSet, *ast.File) {
+	t.Helper()
+	set := token.NewFileSet()
+	tree, err := parser.ParseFile(set, file, nil, parser.ParseComments)
+	if err != nil {
+		t.Fatal(err)
+	}
+	return set, tree
+}
+
+func TestImports(t *testing.T) {
+	for _, file := range programFiles(t) {
+		_, tree := parsed(t, file)
+		for _, spec := range tree.Imports {
+			path, _ := strconv.Unquote(spec.Path.Value)
+			if !strings.Contains(allowedImports, " "+path+" ") {
+				t.Errorf("%s imports %s", file, path)
+			}
+		}
+	}
+}
+
+func TestFunctionsAreSmall(t *testing.T) {
+	for _, file := range programFiles(t) {
+		set, tree := parsed(t, file)
+		for _, d := range tree.Decls {
+			f, ok := d.(*ast.FuncDecl)
+			if !ok {
+				continue
+			}
+			if lines := set.Position(f.End()).Line - set.Position(f.Pos()).Line + 1; lines > maxFunctionLines {
+				t.Errorf("%s: %s has %d lines", file, f.Name.Name, lines)
+			}
+		}
+	}
+}
+
+func TestLayout(t *testing.T) {
+	for _, file := range programFiles(t) {
+		text, err := os.ReadFile(file)
+		if err != nil {
+			t.Fatal(err)
+		}
+		if laid, err := format.Source(text); err != nil || string(laid) != string(text) {
+			t.Errorf("%s is not in gofmt's layout (%v)", file, err)
+		}
+		if strings.Contains(string(text), "//go:") {
+			t.Errorf("%s has a //go: line", file)
+		}
+	}
+}
+
+// TestFormulasLoopOverWords: the chapter 'Ways' has formulas read by a labelled loop.
+func TestFormulasLoopOverWords(t *testing.T) {
+	_, tree := parsed(t, filepath.Join("..", "impl", "l01_formula.go"))
+	found := false
+	ast.Inspect(tree, func(n ast.Node) bool {
+		if l, ok := n.(*ast.LabeledStmt); ok {
+			_, loop := l.Stmt.(*ast.RangeStmt)
+			found = found || loop
+		}
+		return true
+	})
+	if !found {
+		t.Error("no labelled loop")
+	}
+}
