@@ -1,6 +1,7 @@
 package tests
 
 import (
+	"fmt"
 	"math"
 	"math/rand"
 	"strings"
@@ -68,6 +69,38 @@ func TestNothingPanicsOnOddNumbers(t *testing.T) {
 	}
 }
 
+func TestModelsNeverPanic(t *testing.T) {
+	r := chance()
+	for i := range 20000 {
+		f := oddCnf(r)
+		if i%2 == 0 {
+			f = someCnf(r, impl.MaxVars, 12, impl.MaxWidth)
+		}
+		right := impl.CnfOK(f)
+		follow, failed, code := impl.Propagate(f, oddList(r))
+		checkCode(t, "Propagate", code)
+		if (code == impl.ErrBad) == right || code != 0 && (len(follow) != 0 || failed != 0) || failed < -1 {
+			t.Fatalf("Propagate(%v) = %v, %d, %d", f, follow, failed, code)
+		}
+		values, code := impl.LeastModel(f)
+		checkCode(t, "LeastModel", code)
+		if (code == impl.ErrBad) == right || code != 0 && len(values) != 0 || code == 0 && !cnfTrue(f, values) {
+			t.Fatalf("LeastModel(%v) = %v, %d", f, values, code)
+		}
+		count, code := impl.CountModels(f)
+		checkCode(t, "CountModels", code)
+		if (code == impl.ErrBad) == right || code != 0 && count != 0 || (code == impl.ErrSize) != (right && f.Vars > impl.MaxCount) {
+			t.Fatalf("CountModels(%v) = %d, %d", f, count, code)
+		}
+		clause := oddList(r)
+		yes, code := impl.Implied(f, clause)
+		checkCode(t, "Implied", code)
+		if both := right && impl.CnfOK(impl.Cnf{Vars: f.Vars, Clauses: [][]int{clause}}); (code == 0) != both || code != 0 && yes {
+			t.Fatalf("Implied(%v, %v) = %v, %d", f, clause, yes, code)
+		}
+	}
+}
+
 // someText is made of pieces that stand in texts of formulas, and of some that do not.
 func someText(r *rand.Rand) string {
 	pieces := []string{
@@ -117,10 +150,17 @@ func TestArgumentsStay(t *testing.T) {
 		impl.EvalCnf(given, values)
 		impl.DimacsText(given)
 		impl.NormalCnf(given)
-		if !sameCnf(given, f) {
-			t.Fatalf("a call changes %v to %v", f, given)
+		impl.LeastModel(given)
+		impl.CountModels(given)
+		literals := someGiven(r, f.Vars)
+		list := roomy(literals)
+		impl.Propagate(given, list)
+		impl.Implied(given, list)
+		if !sameCnf(given, f) || !sameList(list, literals) {
+			t.Fatalf("a call changes %v, %v to %v, %v", f, literals, given, list)
 		}
-		checkClauseRoom(t, "a call of chapter 2", given.Clauses)
+		checkRoom(t, "a call of chapter 3", list)
+		checkClauseRoom(t, "a call of chapters 2 and 3", given.Clauses)
 		for i := range kept {
 			if kept[i] != values[i] {
 				t.Fatal("EvalCnf changes its values")
@@ -205,6 +245,30 @@ func TestResolventIsNewMemory(t *testing.T) {
 	}
 }
 
+func TestAnswersOfModelsAreNewMemory(t *testing.T) {
+	r := chance()
+	for range 1000 {
+		f := wideCnf(r, 8, 12, 3)
+		given := someGiven(r, f.Vars)
+		keptCnf, keptGiven := copyOf(f), append([]int(nil), given...)
+		follow, failed, _ := impl.Propagate(f, given)
+		want := append([]int(nil), follow...)
+		overwrite(follow)
+		again, failedAgain, _ := impl.Propagate(f, given)
+		if !sameCnf(f, keptCnf) || !sameList(given, keptGiven) || !sameList(again, want) || failed != failedAgain {
+			t.Fatal("what is done with an answer of Propagate changes its arguments or the next one")
+		}
+		model, _ := impl.LeastModel(f)
+		kept := append([]bool(nil), model...)
+		for i := range model {
+			model[i] = !model[i]
+		}
+		if next, _ := impl.LeastModel(f); !sameValues(next, kept) || !sameCnf(f, keptCnf) {
+			t.Fatal("what is done with an answer of LeastModel changes the next one")
+		}
+	}
+}
+
 // calls writes down all that a formula is answered.
 func calls(f impl.Cnf) string {
 	var b strings.Builder
@@ -217,6 +281,16 @@ func calls(f impl.Cnf) string {
 	for number := range 8 {
 		yes, code := impl.EvalCnf(f, valuesOf(number, 3))
 		tell(map[bool]string{false: "no", true: "yes"}[yes], code)
+	}
+	values, code := impl.LeastModel(f)
+	tell(fmt.Sprint(values), code)
+	count, code := impl.CountModels(f)
+	tell(fmt.Sprint(count), code)
+	for v := -3; v <= 3; v++ {
+		follow, failed, code := impl.Propagate(f, []int{v})
+		tell(fmt.Sprint(follow, failed), code)
+		yes, code := impl.Implied(f, []int{v, 1})
+		tell(fmt.Sprint(yes), code)
 	}
 	for i := 1; i < len(f.Clauses); i++ {
 		c, code := impl.Resolve(f.Clauses[i-1], f.Clauses[i], 1)
@@ -264,6 +338,8 @@ func TestEmptyIsNil(t *testing.T) {
 		if _, code := impl.Resolve(clause, []int{-1}, 1); code != impl.ErrNone {
 			t.Error("Resolve of an empty clause", code)
 		}
+		checkPropagate(t, impl.Cnf{Vars: 1, Clauses: [][]int{{-1}}}, clause, toldOf{[]int{-1}, -1})
+		checkImplied(t, impl.Cnf{Vars: 1}, clause, false)
 	}
 }
 
@@ -301,6 +377,13 @@ func TestListsWithinStructs(t *testing.T) {
 		_, evalCode := impl.EvalCnf(f, []bool{true})
 		_, textCode := impl.DimacsText(f)
 		_, normalCode := impl.NormalCnf(f)
+		_, _, propagateCode := impl.Propagate(f, nil)
+		_, leastCode := impl.LeastModel(f)
+		_, countCode := impl.CountModels(f)
+		_, impliedCode := impl.Implied(f, nil)
+		if propagateCode != impl.ErrBad || leastCode != impl.ErrBad || countCode != impl.ErrBad || impliedCode != impl.ErrBad {
+			t.Error("a long list within a formula", propagateCode, leastCode, countCode, impliedCode)
+		}
 		if impl.CnfOK(f) || evalCode != impl.ErrBad || textCode != impl.ErrBad || normalCode != impl.ErrBad {
 			t.Error("a long list within a formula", evalCode, textCode, normalCode)
 		}

@@ -35,6 +35,9 @@ func TestConstants(t *testing.T) {
 	if impl.MaxVars != 40 || impl.MaxClauses != 300 || impl.MaxWidth != 12 {
 		t.Error("the limits of chapter 2")
 	}
+	if impl.MaxCount != 12 {
+		t.Error("the limit of chapter 3")
+	}
 }
 
 func TestCodesAndWords(t *testing.T) {

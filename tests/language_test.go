@@ -100,3 +100,25 @@ func TestFormulasLoopOverWords(t *testing.T) {
 		t.Error("no labelled loop")
 	}
 }
+
+// TestModelsWatchLiterals: the chapter 'Ways' has watched literals in maps from literals, and a clause as a value that is compared.
+func TestModelsWatchLiterals(t *testing.T) {
+	_, tree := parsed(t, filepath.Join("..", "impl", "l02_models.go"))
+	maps, values := 0, 0
+	ast.Inspect(tree, func(n ast.Node) bool {
+		switch x := n.(type) {
+		case *ast.MapType:
+			if key, ok := x.Key.(*ast.Ident); ok && key.Name == "int" {
+				maps++
+			}
+		case *ast.BinaryExpr:
+			if _, ok := ast.Unparen(x.Y).(*ast.CompositeLit); ok && (x.Op == token.EQL || x.Op == token.NEQ) {
+				values++
+			}
+		}
+		return true
+	})
+	if maps == 0 || values == 0 {
+		t.Errorf("%d maps from literals, %d clauses compared as values", maps, values)
+	}
+}
