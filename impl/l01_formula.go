@@ -64,10 +64,7 @@ func DimacsText(f Cnf) (string, int) {
 	var b strings.Builder
 	b.WriteString("p cnf " + strconv.Itoa(f.Vars) + " " + strconv.Itoa(len(f.Clauses)) + "\n")
 	for _, clause := range f.Clauses {
-		for _, literal := range clause {
-			b.WriteString(strconv.Itoa(literal) + " ")
-		}
-		b.WriteString("0\n")
+		b.WriteString(clauseLine(clause))
 	}
 	return b.String(), OK
 }
@@ -124,6 +121,15 @@ func Resolve(a, b []int, v int) ([]int, int) {
 		return nil, ErrState
 	}
 	return result, OK
+}
+
+// clauseLine is a clause's line in the texts of formulas and proofs.
+func clauseLine(clause []int) string {
+	var b strings.Builder
+	for _, literal := range clause {
+		b.WriteString(strconv.Itoa(literal) + " ")
+	}
+	return b.String() + "0\n"
 }
 
 // isLiteral compares with both bounds, because the opposite of the least integer would wrap.

@@ -101,6 +101,60 @@ func TestModelsNeverPanic(t *testing.T) {
 	}
 }
 
+func oddSteps(r *rand.Rand) []impl.Step {
+	var steps []impl.Step
+	for range r.Intn(4) {
+		steps = append(steps, impl.Step{Delete: r.Intn(2) == 0, Clause: oddList(r)})
+	}
+	return steps
+}
+
+func areRightSteps(steps []impl.Step, vars int) bool {
+	for _, s := range steps {
+		if !impl.CnfOK(impl.Cnf{Vars: vars, Clauses: [][]int{s.Clause}}) {
+			return false
+		}
+	}
+	return true
+}
+
+func TestProofsNeverPanic(t *testing.T) {
+	r := chance()
+	for i := range 20000 {
+		f, steps, clause := oddCnf(r), oddSteps(r), oddList(r)
+		if i%2 == 0 {
+			f = wideCnf(r, impl.MaxVars, 12, impl.MaxWidth)
+			steps = append(someSteps(r, f), steps...)
+		}
+		if i%4 == 0 {
+			steps, clause = someSteps(r, f), someClause(r, f.Vars, 12)
+		}
+		right := impl.CnfOK(f)
+		both := right && impl.CnfOK(impl.Cnf{Vars: f.Vars, Clauses: [][]int{clause}})
+		rup, rupCode := impl.Rup(f, clause)
+		rat, ratCode := impl.Rat(f, clause)
+		checkCode(t, "Rup", rupCode)
+		if (rupCode == 0) != both || ratCode != rupCode || rupCode != 0 && (rup || rat) {
+			t.Fatalf("Rup(%v, %v) = %v, %d, Rat = %v, %d", f, clause, rup, rupCode, rat, ratCode)
+		}
+		at, code := impl.CheckProof(f, steps)
+		checkCode(t, "CheckProof", code)
+		if (code == impl.ErrBad) == (right && areRightSteps(steps, f.Vars)) || at < 0 || at > len(steps) || code == impl.ErrBad && at != 0 {
+			t.Fatalf("CheckProof(%v, %v) = %d, %d", f, steps, at, code)
+		}
+		text, code := impl.ProofText(steps)
+		checkCode(t, "ProofText", code)
+		if (code == 0) != areRightSteps(steps, impl.MaxVars) || code != 0 && text != "" {
+			t.Fatalf("ProofText(%v) = %q, %d", steps, text, code)
+		}
+		told, code := impl.Refutation(f)
+		checkCode(t, "Refutation", code)
+		if (code == impl.ErrBad) == right || (code == 0) != (len(told) > 0) {
+			t.Fatalf("Refutation(%v) = %v, %d", f, told, code)
+		}
+	}
+}
+
 // someText is made of pieces that stand in texts of formulas, and of some that do not.
 func someText(r *rand.Rand) string {
 	pieces := []string{
@@ -139,6 +193,31 @@ func TestReadDimacsNeverPanics(t *testing.T) {
 	}
 }
 
+func TestReadProofNeverPanics(t *testing.T) {
+	r := chance()
+	read := 0
+	for range 60000 {
+		text := strings.ReplaceAll(strings.ReplaceAll(someText(r), "p", "d"), "cnf", "0\n")
+		steps, code, at := impl.ReadProof(text)
+		checkCode(t, "ReadProof", code)
+		if code != 0 && (len(steps) != 0 || at < 0 || at > len(text)) {
+			t.Fatalf("ReadProof(%q) = %v, %d, %d", text, steps, code, at)
+		}
+		if code != 0 {
+			continue
+		}
+		if at != 0 || !areRightSteps(steps, impl.MaxVars) {
+			t.Fatalf("ReadProof(%q) = %v, %d, %d", text, steps, code, at)
+		}
+		if len(steps) > 0 {
+			read++
+		}
+	}
+	if read < 100 {
+		t.Errorf("only %d texts were read: the test tells nothing", read)
+	}
+}
+
 func TestArgumentsStay(t *testing.T) {
 	r := chance()
 	for range 2000 {
@@ -164,6 +243,46 @@ func TestArgumentsStay(t *testing.T) {
 		for i := range kept {
 			if kept[i] != values[i] {
 				t.Fatal("EvalCnf changes its values")
+			}
+		}
+	}
+}
+
+func copyOfSteps(steps []impl.Step) []impl.Step {
+	var list []impl.Step
+	for _, s := range steps {
+		list = append(list, impl.Step{Delete: s.Delete, Clause: append([]int(nil), s.Clause...)})
+	}
+	return list
+}
+
+func TestProofsLeaveTheirArguments(t *testing.T) {
+	r := chance()
+	for range 2000 {
+		f := wideCnf(r, 6, 20, 3)
+		given := impl.Cnf{Vars: f.Vars, Clauses: roomyClauses(f.Clauses)}
+		steps, clause := someSteps(r, f), someClause(r, f.Vars, 5)
+		all := make([]impl.Step, 0, len(steps)+4)
+		for _, s := range steps {
+			all = append(all, impl.Step{Delete: s.Delete, Clause: roomy(s.Clause)})
+		}
+		list := roomy(clause)
+		impl.Rup(given, list)
+		impl.Rat(given, list)
+		impl.CheckProof(given, all)
+		impl.ProofText(all)
+		impl.Refutation(given)
+		if !sameCnf(given, f) || !sameSteps(all, steps) || !sameList(list, clause) {
+			t.Fatalf("a call changes %v, %v, %v to %v, %v, %v", f, steps, clause, given, all, list)
+		}
+		checkRoom(t, "a call of chapter 4", list)
+		checkClauseRoom(t, "a call of chapter 4", given.Clauses)
+		for _, s := range all {
+			checkRoom(t, "a call of chapter 4", s.Clause)
+		}
+		for _, s := range all[:cap(all)][len(all):] {
+			if s.Delete || s.Clause != nil {
+				t.Fatal("a call of chapter 4 writes behind the end of its steps")
 			}
 		}
 	}
@@ -269,6 +388,36 @@ func TestAnswersOfModelsAreNewMemory(t *testing.T) {
 	}
 }
 
+// checkStepsApart writes to one step after the other, and looks at the others.
+func checkStepsApart(t *testing.T, who string, steps []impl.Step) {
+	t.Helper()
+	kept := copyOfSteps(steps)
+	for i := len(steps) - 1; i >= 0; i-- {
+		overwrite(steps[i].Clause)
+		if !sameSteps(steps[:i], kept[:i]) {
+			t.Fatalf("%s: step %d shares memory with one ahead", who, i)
+		}
+	}
+}
+
+func TestStepsAreNewMemory(t *testing.T) {
+	r := chance()
+	for range 500 {
+		f := threes(r, 7, 50)
+		kept := copyOf(f)
+		steps, code := impl.Refutation(f)
+		want := copyOfSteps(steps)
+		text, _ := impl.ProofText(steps)
+		checkStepsApart(t, "Refutation", steps)
+		if again, codeAgain := impl.Refutation(f); !sameCnf(f, kept) || !sameSteps(again, want) || code != codeAgain {
+			t.Fatal("what is done with an answer of Refutation changes its argument or the next one")
+		}
+		read, _, _ := impl.ReadProof(text)
+		checkStepsApart(t, "ReadProof", read)
+		checkRead(t, text, want)
+	}
+}
+
 // calls writes down all that a formula is answered.
 func calls(f impl.Cnf) string {
 	var b strings.Builder
@@ -291,7 +440,18 @@ func calls(f impl.Cnf) string {
 		tell(fmt.Sprint(follow, failed), code)
 		yes, code := impl.Implied(f, []int{v, 1})
 		tell(fmt.Sprint(yes), code)
+		yes, code = impl.Rup(f, []int{v})
+		tell(fmt.Sprint(yes), code)
+		yes, code = impl.Rat(f, []int{v, 1})
+		tell(fmt.Sprint(yes), code)
+		at, code := impl.CheckProof(f, []impl.Step{step(v), removal(v), step(1, -2), step()})
+		tell(fmt.Sprint(at), code)
 	}
+	steps, code := impl.Refutation(f)
+	proof, _ := impl.ProofText(steps)
+	tell(proof, code)
+	read, code, at := impl.ReadProof(proof + text)
+	tell(fmt.Sprint(read, at), code)
 	for i := 1; i < len(f.Clauses); i++ {
 		c, code := impl.Resolve(f.Clauses[i-1], f.Clauses[i], 1)
 		resolvent, _ := impl.DimacsText(impl.Cnf{Vars: impl.MaxVars, Clauses: [][]int{c}})
@@ -340,6 +500,17 @@ func TestEmptyIsNil(t *testing.T) {
 		}
 		checkPropagate(t, impl.Cnf{Vars: 1, Clauses: [][]int{{-1}}}, clause, toldOf{[]int{-1}, -1})
 		checkImplied(t, impl.Cnf{Vars: 1}, clause, false)
+		checkRupRat(t, impl.Cnf{Vars: 1}, clause, false, false)
+		checkProof(t, impl.Cnf{Clauses: [][]int{clause}}, []impl.Step{{Delete: true, Clause: clause}, {Clause: clause}}, 1, impl.ErrState)
+		if text, code := impl.ProofText([]impl.Step{{Clause: clause}}); text != "0\n" || code != 0 {
+			t.Error("ProofText of an empty clause", text, code)
+		}
+	}
+	for _, steps := range [][]impl.Step{nil, {}} {
+		checkProof(t, impl.Cnf{}, steps, 0, impl.ErrForm)
+		if text, code := impl.ProofText(steps); text != "" || code != 0 {
+			t.Error("ProofText of nothing", text, code)
+		}
 	}
 }
 
@@ -381,12 +552,46 @@ func TestListsWithinStructs(t *testing.T) {
 		_, leastCode := impl.LeastModel(f)
 		_, countCode := impl.CountModels(f)
 		_, impliedCode := impl.Implied(f, nil)
+		_, rupCode := impl.Rup(f, nil)
+		_, ratCode := impl.Rat(f, nil)
+		_, checkedCode := impl.CheckProof(f, nil)
+		_, refutationCode := impl.Refutation(f)
+		if rupCode != impl.ErrBad || ratCode != impl.ErrBad || checkedCode != impl.ErrBad || refutationCode != impl.ErrBad {
+			t.Error("a long list within a formula", rupCode, ratCode, checkedCode, refutationCode)
+		}
 		if propagateCode != impl.ErrBad || leastCode != impl.ErrBad || countCode != impl.ErrBad || impliedCode != impl.ErrBad {
 			t.Error("a long list within a formula", propagateCode, leastCode, countCode, impliedCode)
 		}
 		if impl.CnfOK(f) || evalCode != impl.ErrBad || textCode != impl.ErrBad || normalCode != impl.ErrBad {
 			t.Error("a long list within a formula", evalCode, textCode, normalCode)
 		}
+	}
+}
+
+// TestListsWithinSteps: MaxList does not bound them, MaxWidth does.
+func TestListsWithinSteps(t *testing.T) {
+	steps := []impl.Step{step(repeated(1, impl.MaxList+1)...)}
+	checkProof(t, impl.Cnf{Vars: 1}, steps, 0, impl.ErrBad)
+	if text, code := impl.ProofText(steps); text != "" || code != impl.ErrBad {
+		t.Error("ProofText of a long clause", len(text), code)
+	}
+}
+
+func TestLongProofText(t *testing.T) {
+	most := "d 1 0" + strings.Repeat(" ", impl.MaxText-5)
+	checkRead(t, most, []impl.Step{removal(1)})
+	if steps, code, at := impl.ReadProof(most + " "); code != impl.ErrLong || at != 0 || len(steps) != 0 {
+		t.Error("ReadProof of one byte more", steps, code, at)
+	}
+	if _, code, at := impl.ReadProof("1" + strings.Repeat(" ", impl.MaxText-1)); code != impl.ErrSyntax || at != impl.MaxText {
+		t.Error("ReadProof of a long line", code, at)
+	}
+	if _, code, at := impl.ReadProof(strings.Repeat("x", impl.MaxText+1)); code != impl.ErrLong || at != 0 {
+		t.Error("ReadProof of a long word", code, at)
+	}
+	checkRead(t, strings.Repeat("\n", impl.MaxText), nil)
+	if _, code, at := impl.ReadProof(strings.Repeat("0\n", impl.MaxText/2)); code != impl.ErrMany || at != 2*impl.MaxSteps {
+		t.Error("ReadProof of many lines", code, at)
 	}
 }
 

@@ -38,6 +38,9 @@ func TestConstants(t *testing.T) {
 	if impl.MaxCount != 12 {
 		t.Error("the limit of chapter 3")
 	}
+	if impl.MaxSteps != 200 {
+		t.Error("the limit of chapter 4")
+	}
 }
 
 func TestCodesAndWords(t *testing.T) {

@@ -122,3 +122,58 @@ func TestModelsWatchLiterals(t *testing.T) {
 		t.Errorf("%d maps from literals, %d clauses compared as values", maps, values)
 	}
 }
+
+// TestProofsThrowFaults: the chapter 'Ways' has a fault that is an error type, thrown by a panic, recovered, and found by errors.As.
+func TestProofsThrowFaults(t *testing.T) {
+	_, tree := parsed(t, filepath.Join("..", "impl", "l03_proofs.go"))
+	errorTypes, thrown, found := map[string]bool{}, map[string]bool{}, 0
+	for _, d := range tree.Decls {
+		if f, ok := d.(*ast.FuncDecl); ok && f.Recv != nil && f.Name.Name == "Error" {
+			if name, ok := f.Recv.List[0].Type.(*ast.Ident); ok {
+				errorTypes[name.Name] = true
+			}
+		}
+	}
+	recovered := 0
+	ast.Inspect(tree, func(n ast.Node) bool {
+		switch x := n.(type) {
+		case *ast.DeferStmt:
+			if literal, ok := x.Call.Fun.(*ast.FuncLit); ok {
+				recovered += callsOf(literal, "recover")
+			}
+		case *ast.SelectorExpr:
+			if of, ok := x.X.(*ast.Ident); ok && of.Name == "errors" && x.Sel.Name == "As" {
+				found++
+			}
+		case *ast.CallExpr:
+			if name, ok := x.Fun.(*ast.Ident); ok && name.Name == "panic" {
+				if value, ok := x.Args[0].(*ast.CompositeLit); ok {
+					thrown[value.Type.(*ast.Ident).Name] = true
+				}
+			}
+		}
+		return true
+	})
+	if len(thrown) == 0 || recovered == 0 || recovered != callsOf(tree, "recover") || found == 0 {
+		t.Errorf("thrown: %v, recovered in %d deferred functions, found %d times", thrown, recovered, found)
+	}
+	for name := range thrown {
+		if !errorTypes[name] {
+			t.Errorf("%s is thrown, and no error type", name)
+		}
+	}
+}
+
+// callsOf counts the calls of a function by its name.
+func callsOf(tree ast.Node, name string) int {
+	count := 0
+	ast.Inspect(tree, func(n ast.Node) bool {
+		if call, ok := n.(*ast.CallExpr); ok {
+			if f, ok := call.Fun.(*ast.Ident); ok && f.Name == name {
+				count++
+			}
+		}
+		return true
+	})
+	return count
+}
