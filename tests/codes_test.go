@@ -41,6 +41,14 @@ func TestConstants(t *testing.T) {
 	if impl.MaxSteps != 200 {
 		t.Error("the limit of chapter 4")
 	}
+	if impl.MaxInputs != 12 || impl.MaxEx != 400 || impl.MaxDepth != 40 {
+		t.Error("the limits of chapter 5")
+	}
+	for i, kind := range []int{impl.ExVar, impl.ExConst, impl.ExNot, impl.ExAnd, impl.ExOr, impl.ExXor, impl.ExIte} {
+		if kind != i+1 {
+			t.Errorf("kind %d of chapter 5 is %d", i+1, kind)
+		}
+	}
 }
 
 func TestCodesAndWords(t *testing.T) {

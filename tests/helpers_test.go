@@ -1,6 +1,7 @@
 package tests
 
 import (
+	"fmt"
 	"math/rand"
 	"testing"
 
@@ -169,4 +170,14 @@ func overwrite(list []int) {
 	for i := range all {
 		all[i] = mark
 	}
+}
+
+// brief tells a value that may be long, as far as one reads it.
+func brief(value any) string {
+	const most = 300
+	text := fmt.Sprint(value)
+	if len(text) > most {
+		return text[:most] + " .."
+	}
+	return text
 }

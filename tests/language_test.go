@@ -164,6 +164,34 @@ func TestProofsThrowFaults(t *testing.T) {
 	}
 }
 
+// TestCircuitsFindGates: the chapter 'Ways' has a map with arrays of two literals as keys, and method values for the operators.
+func TestCircuitsFindGates(t *testing.T) {
+	_, tree := parsed(t, filepath.Join("..", "impl", "l04_circuit.go"))
+	methods, maps := map[string]bool{}, 0
+	for _, d := range tree.Decls {
+		if f, ok := d.(*ast.FuncDecl); ok && f.Recv != nil {
+			methods[f.Name.Name] = true
+		}
+	}
+	values := map[string]bool{}
+	ast.Inspect(tree, func(n ast.Node) bool {
+		switch x := n.(type) {
+		case *ast.MapType:
+			if key, ok := x.Key.(*ast.ArrayType); ok && key.Len != nil {
+				maps++
+			}
+		case *ast.KeyValueExpr:
+			if value, ok := x.Value.(*ast.SelectorExpr); ok && methods[value.Sel.Name] {
+				values[value.Sel.Name] = true
+			}
+		}
+		return true
+	})
+	if maps == 0 || len(values) < 5 {
+		t.Errorf("%d maps from two literals, method values %v", maps, values)
+	}
+}
+
 // callsOf counts the calls of a function by its name.
 func callsOf(tree ast.Node, name string) int {
 	count := 0
