@@ -49,6 +49,14 @@ func TestConstants(t *testing.T) {
 			t.Errorf("kind %d of chapter 5 is %d", i+1, kind)
 		}
 	}
+	if impl.MaxBits != 6 {
+		t.Error("the limit of chapter 6")
+	}
+	for i, kind := range []int{impl.WdConst, impl.WdVar, impl.WdAdd, impl.WdAnd, impl.WdMin} {
+		if kind != i+1 {
+			t.Errorf("kind %d of chapter 6 is %d", i+1, kind)
+		}
+	}
 }
 
 func TestCodesAndWords(t *testing.T) {

@@ -192,6 +192,31 @@ func TestCircuitsFindGates(t *testing.T) {
 	}
 }
 
+// TestWordsGoOverRows: the chapter 'Ways' has generic functions over rows, and three-index slices of bits.
+func TestWordsGoOverRows(t *testing.T) {
+	_, tree := parsed(t, filepath.Join("..", "impl", "l05_words.go"))
+	generic, slices := map[string]bool{}, 0
+	for _, d := range tree.Decls {
+		if f, ok := d.(*ast.FuncDecl); ok && f.Type.TypeParams != nil {
+			generic[f.Name.Name] = true
+		}
+	}
+	ast.Inspect(tree, func(n ast.Node) bool {
+		if s, ok := n.(*ast.SliceExpr); ok && s.Slice3 {
+			slices++
+		}
+		return true
+	})
+	if len(generic) == 0 || slices == 0 {
+		t.Errorf("generic functions %v, %d slices with three indexes", generic, slices)
+	}
+	for name := range generic {
+		if callsOf(tree, name) == 0 {
+			t.Errorf("%s is never called", name)
+		}
+	}
+}
+
 // callsOf counts the calls of a function by its name.
 func callsOf(tree ast.Node, name string) int {
 	count := 0
