@@ -57,6 +57,15 @@ func TestConstants(t *testing.T) {
 			t.Errorf("kind %d of chapter 6 is %d", i+1, kind)
 		}
 	}
+	if impl.MaxRouters != 4 || impl.MaxLinks != 6 || impl.MaxImports != 12 || impl.MaxFilters != 6 {
+		t.Error("how much there is of each in chapter 7")
+	}
+	if impl.MaxCost != 100 || impl.MaxPref != 1000 || impl.MaxPort != 15 {
+		t.Error("the limits of numbers in chapter 7")
+	}
+	if impl.WhAlways != 0 || impl.WhMark != 1 || impl.WhPlain != 2 || impl.DoDeny != 1 || impl.DoPref != 2 || impl.DoMark != 3 || impl.DoClear != 4 {
+		t.Error("what an import does, and when, in chapter 7")
+	}
 }
 
 func TestCodesAndWords(t *testing.T) {

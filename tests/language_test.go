@@ -217,6 +217,41 @@ func TestWordsGoOverRows(t *testing.T) {
 	}
 }
 
+// TestNetworksReadByFirstWord: the chapter 'Ways' has a map from a line's first word to a method expression, and an embedding of what has a name.
+func TestNetworksReadByFirstWord(t *testing.T) {
+	_, tree := parsed(t, filepath.Join("..", "impl", "l06_network.go"))
+	words, embedded := map[string]string{}, 0
+	ast.Inspect(tree, func(n ast.Node) bool {
+		switch x := n.(type) {
+		case *ast.KeyValueExpr:
+			key, isText := x.Key.(*ast.BasicLit)
+			method, isMethod := x.Value.(*ast.SelectorExpr)
+			if !isText || !isMethod {
+				break
+			}
+			// A method expression names the type, here a pointer in parentheses, and not a value.
+			if _, ok := method.X.(*ast.ParenExpr); ok {
+				words[key.Value] = method.Sel.Name
+			}
+		case *ast.StructType:
+			for _, field := range x.Fields.List {
+				if len(field.Names) == 0 {
+					embedded++
+				}
+			}
+		}
+		return true
+	})
+	for _, word := range []string{"router", "link", "origin", "external", "import", "filter"} {
+		if words[strconv.Quote(word)] == "" {
+			t.Errorf("no method expression for the first word %q", word)
+		}
+	}
+	if embedded == 0 {
+		t.Error("nothing is embedded")
+	}
+}
+
 // callsOf counts the calls of a function by its name.
 func callsOf(tree ast.Node, name string) int {
 	count := 0
