@@ -66,6 +66,9 @@ func TestConstants(t *testing.T) {
 	if impl.WhAlways != 0 || impl.WhMark != 1 || impl.WhPlain != 2 || impl.DoDeny != 1 || impl.DoPref != 2 || impl.DoMark != 3 || impl.DoClear != 4 {
 		t.Error("what an import does, and when, in chapter 7")
 	}
+	if impl.ViNone != -3 || impl.ViSelf != -2 || impl.ViExternal != -1 {
+		t.Error("the Vias of chapter 8 that are no routers")
+	}
 }
 
 func TestCodesAndWords(t *testing.T) {

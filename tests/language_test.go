@@ -252,6 +252,66 @@ func TestNetworksReadByFirstWord(t *testing.T) {
 	}
 }
 
+// TestRoutesGoThroughChoices: the chapter 'Ways' has an iterator over choices, ranged over as a function, and a memo made once for each network.
+func TestRoutesGoThroughChoices(t *testing.T) {
+	_, tree := parsed(t, filepath.Join("..", "impl", "l07_routes.go"))
+	iterators, onces := map[string]bool{}, map[string]bool{}
+	ast.Inspect(tree, func(n ast.Node) bool {
+		switch x := n.(type) {
+		case *ast.FuncDecl:
+			if x.Type.Results != nil && namesOf(x.Type.Results, "iter", "Seq") > 0 {
+				iterators[x.Name.Name] = true
+			}
+		case *ast.StructType:
+			for _, field := range x.Fields.List {
+				if len(field.Names) == 1 && namesOf(field.Type, "sync", "Once") > 0 {
+					onces[field.Names[0].Name] = true
+				}
+			}
+		case *ast.ValueSpec:
+			if namesOf(x, "sync", "Once") > 0 {
+				t.Error("a sync.Once that belongs to no network")
+			}
+		}
+		return true
+	})
+	ranged, done := 0, 0
+	ast.Inspect(tree, func(n ast.Node) bool {
+		switch x := n.(type) {
+		case *ast.RangeStmt:
+			if call, ok := x.X.(*ast.CallExpr); ok {
+				if f, ok := call.Fun.(*ast.SelectorExpr); ok && iterators[f.Sel.Name] {
+					ranged++
+				}
+			}
+		case *ast.CallExpr:
+			if do, ok := x.Fun.(*ast.SelectorExpr); ok && do.Sel.Name == "Do" {
+				if once, ok := do.X.(*ast.SelectorExpr); ok && onces[once.Sel.Name] {
+					done++
+				}
+			}
+		}
+		return true
+	})
+	if ranged == 0 || done == 0 {
+		t.Errorf("iterators %v ranged over %d times, memos %v made at %d places", iterators, ranged, onces, done)
+	}
+}
+
+// namesOf counts where a name of a package is meant.
+func namesOf(tree ast.Node, pack, name string) int {
+	count := 0
+	ast.Inspect(tree, func(n ast.Node) bool {
+		if x, ok := n.(*ast.SelectorExpr); ok && x.Sel.Name == name {
+			if of, ok := x.X.(*ast.Ident); ok && of.Name == pack {
+				count++
+			}
+		}
+		return true
+	})
+	return count
+}
+
 // callsOf counts the calls of a function by its name.
 func callsOf(tree ast.Node, name string) int {
 	count := 0
