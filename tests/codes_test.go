@@ -69,6 +69,12 @@ func TestConstants(t *testing.T) {
 	if impl.ViNone != -3 || impl.ViSelf != -2 || impl.ViExternal != -1 {
 		t.Error("the Vias of chapter 8 that are no routers")
 	}
+	if impl.OcOwn != 1 || impl.OcOut != 2 || impl.OcNoRoute != 3 || impl.OcFilter != 4 {
+		t.Error("the outcomes of chapter 9")
+	}
+	if impl.PrReach != 1 || impl.PrNever != 2 || impl.PrWay != 3 || impl.PrOwn != 4 || impl.MaxDown != 2 {
+		t.Error("the properties of chapter 9, and the limit of links that are down")
+	}
 }
 
 func TestCodesAndWords(t *testing.T) {

@@ -298,6 +298,41 @@ func TestRoutesGoThroughChoices(t *testing.T) {
 	}
 }
 
+// TestVerdictsCountStates: the chapter 'Ways' has counts of states in atomic numbers, and a defer that adds them.
+func TestVerdictsCountStates(t *testing.T) {
+	_, tree := parsed(t, filepath.Join("..", "impl", "l08_verify.go"))
+	counts := map[string]bool{}
+	ast.Inspect(tree, func(n ast.Node) bool {
+		switch x := n.(type) {
+		case *ast.StructType:
+			for _, field := range x.Fields.List {
+				if len(field.Names) == 1 && namesOf(field.Type, "atomic", "Int64") > 0 {
+					counts[field.Names[0].Name] = true
+				}
+			}
+		case *ast.ValueSpec:
+			if namesOf(x, "atomic", "Int64") > 0 {
+				t.Error("a count that belongs to no call")
+			}
+		}
+		return true
+	})
+	added := 0
+	ast.Inspect(tree, func(n ast.Node) bool {
+		if x, ok := n.(*ast.DeferStmt); ok {
+			if add, ok := x.Call.Fun.(*ast.SelectorExpr); ok && add.Sel.Name == "Add" {
+				if count, ok := add.X.(*ast.SelectorExpr); ok && counts[count.Sel.Name] {
+					added++
+				}
+			}
+		}
+		return true
+	})
+	if added == 0 {
+		t.Errorf("no defer adds to the counts %v", counts)
+	}
+}
+
 // namesOf counts where a name of a package is meant.
 func namesOf(tree ast.Node, pack, name string) int {
 	count := 0

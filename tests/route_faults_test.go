@@ -275,7 +275,6 @@ func slowCodes(a asked) codes {
 			}
 		}
 	}
-	between := func(number, low, high int) bool { return number >= low && number <= high }
 	if len(a.env) > 4096 || len(a.down) > 4096 {
 		tell(ofAll(impl.ErrLong))
 	}
