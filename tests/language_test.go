@@ -333,6 +333,51 @@ func TestVerdictsCountStates(t *testing.T) {
 	}
 }
 
+// TestProvingAsksWhatIsChecked: the chapter 'Ways' has an interface for what is checked, asked by a type switch; no function that the document lists has one.
+func TestProvingAsksWhatIsChecked(t *testing.T) {
+	_, tree := parsed(t, filepath.Join("..", "impl", "l09_prove.go"))
+	wanted, methods, asked := map[string]bool{}, map[string]map[string]bool{}, map[string]bool{}
+	for _, d := range tree.Decls {
+		f, ok := d.(*ast.FuncDecl)
+		if ok && f.Recv != nil {
+			if of, ok := f.Recv.List[0].Type.(*ast.Ident); ok {
+				if methods[of.Name] == nil {
+					methods[of.Name] = map[string]bool{}
+				}
+				methods[of.Name][f.Name.Name] = true
+			}
+		}
+		ast.Inspect(d, func(n ast.Node) bool {
+			switch x := n.(type) {
+			case *ast.InterfaceType:
+				for _, method := range x.Methods.List {
+					wanted[method.Names[0].Name] = true
+				}
+			case *ast.TypeSwitchStmt:
+				if f.Name.IsExported() {
+					t.Errorf("%s has a type switch", f.Name.Name)
+				}
+				for _, clause := range x.Body.List {
+					for _, of := range clause.(*ast.CaseClause).List {
+						asked[of.(*ast.Ident).Name] = true
+					}
+				}
+			}
+			return true
+		})
+	}
+	if len(wanted) == 0 || len(asked) < 2 {
+		t.Errorf("methods of interfaces %v, kinds asked for %v", wanted, asked)
+	}
+	for kind := range asked {
+		for method := range wanted {
+			if !methods[kind][method] {
+				t.Errorf("%s has no %s", kind, method)
+			}
+		}
+	}
+}
+
 // namesOf counts where a name of a package is meant.
 func namesOf(tree ast.Node, pack, name string) int {
 	count := 0
