@@ -75,6 +75,9 @@ func TestConstants(t *testing.T) {
 	if impl.PrReach != 1 || impl.PrNever != 2 || impl.PrWay != 3 || impl.PrOwn != 4 || impl.MaxDown != 2 {
 		t.Error("the properties of chapter 9, and the limit of links that are down")
 	}
+	if impl.MaxLines != 100 {
+		t.Error("the limit of chapter 11")
+	}
 }
 
 func TestCodesAndWords(t *testing.T) {

@@ -378,6 +378,36 @@ func TestProvingAsksWhatIsChecked(t *testing.T) {
 	}
 }
 
+// TestConsoleCommandsAreClosures: the chapter 'Ways' has closures for commands, and goto in the reading of a line.
+func TestConsoleCommandsAreClosures(t *testing.T) {
+	_, tree := parsed(t, filepath.Join("..", "impl", "l10_console.go"))
+	commands, jumps, labels := map[string]bool{}, map[string]int{}, map[string]bool{}
+	ast.Inspect(tree, func(n ast.Node) bool {
+		switch x := n.(type) {
+		case *ast.KeyValueExpr:
+			key, isText := x.Key.(*ast.BasicLit)
+			if _, isClosure := x.Value.(*ast.FuncLit); isText && isClosure {
+				commands[key.Value] = true
+			}
+		case *ast.BranchStmt:
+			if x.Tok == token.GOTO {
+				jumps[x.Label.Name]++
+			}
+		case *ast.LabeledStmt:
+			labels[x.Label.Name] = true
+		}
+		return true
+	})
+	for _, word := range []string{"verify", "show"} {
+		if !commands[strconv.Quote(word)] {
+			t.Errorf("no closure for the command %q", word)
+		}
+	}
+	if len(jumps) == 0 {
+		t.Errorf("no goto, labels %v", labels)
+	}
+}
+
 // namesOf counts where a name of a package is meant.
 func namesOf(tree ast.Node, pack, name string) int {
 	count := 0
